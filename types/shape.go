@@ -92,16 +92,22 @@ func (s shape) join(other shape) shape {
 	return shape{lists: both, kind: api.TyAny}
 }
 
-// look holds a value against a type, and counts.
+// look holds a value against a type. It keeps what it went over: where lists are the same list many times, a value that takes little room has more parts than can be gone over one by one.
 type look struct {
-	seen int
+	known map[place]int
 }
 
-// mostValues is more than there is room for in all that may be handed in: only a list that holds itself has more.
-const mostValues = 1 << 25
+// place is where a list begins, held against a type of so many lists.
+type place struct {
+	first *api.Value
+	lists int
+}
+
+func newLook() *look {
+	return &look{known: make(map[place]int)}
+}
 
 func (l *look) has(v api.Value, s shape) bool {
-	l.seen++
 	switch {
 	case v.Kind == api.VNull || s.is(api.TyAny):
 		return true
@@ -117,11 +123,17 @@ func (l *look) has(v api.Value, s shape) bool {
 	return false
 }
 
+// all leaves out those values, from the first one on, of which it is known that they are of s. Whatever is in the list is held against fewer lists, so even a list that holds itself has an end.
 func (l *look) all(list []api.Value, s shape) bool {
-	for _, v := range list {
-		if l.seen > mostValues || !l.has(v, s) {
+	if len(list) == 0 {
+		return true
+	}
+	at := place{first: &list[0], lists: s.lists}
+	for i := l.known[at]; i < len(list); i++ {
+		if !l.has(list[i], s) {
 			return false
 		}
 	}
+	l.known[at] = max(l.known[at], len(list))
 	return true
 }

@@ -212,6 +212,78 @@ func TestE1HasOfLongLists(t *testing.T) {
 	}
 }
 
+// rowOf is a list of v, that many times.
+func rowOf(v api.Value, n int) api.Value {
+	l := make([]api.Value, n)
+	for i := range l {
+		l[i] = v
+	}
+	return api.Value{Kind: api.VList, List: l}
+}
+
+// Where lists are the same list many times, there are more values than can be gone over one by one.
+func TestE1HasOfTheSameListManyTimes(t *testing.T) {
+	row := api.Value{Kind: api.VNum}
+	for lists := 1; lists < api.MaxTypes; lists++ {
+		row = rowOf(row, 5000)
+		for _, c := range []struct {
+			t    api.Type
+			want bool
+		}{
+			{nested(of(api.TyNum), lists), true},
+			{nested(of(api.TyAny), lists), true},
+			{nested(of(api.TyAny), lists-1), true},
+			{nested(of(api.TyText), lists), false},
+			{nested(of(api.TyNum), lists-1), false},
+			{nested(of(api.TyNum), lists+1), false},
+		} {
+			if got := types.Has(row, c.t); got != c.want {
+				t.Errorf("%d lists, %s: %t comes", lists, types.Name(c.t), got)
+			}
+		}
+	}
+	// The last one of all alone is of another type.
+	v, text := api.Value{Kind: api.VNum}, api.Value{Kind: api.VText}
+	for lists := 1; lists < api.MaxTypes; lists++ {
+		other := rowOf(v, 5000)
+		other.List[4999] = text
+		if types.Has(other, nested(of(api.TyNum), lists)) || !types.Has(other, nested(of(api.TyAny), lists)) {
+			t.Errorf("%d lists: it is of numbers, or not of any", lists)
+		}
+		v, text = rowOf(v, 5000), rowOf(text, 1)
+	}
+}
+
+// What is known of a list says nothing of a longer one, nor of the same one where it is asked for another type.
+func TestE1HasOfListsThatShare(t *testing.T) {
+	list := func(l ...api.Value) api.Value { return api.Value{Kind: api.VList, List: l} }
+	num, text := api.Value{Kind: api.VNum}, api.Value{Kind: api.VText}
+	room := []api.Value{num, num, text, num}
+	part := func(from, to int) api.Value { return list(room[from:to]...) }
+	nested1 := list(list(num))
+	deep := nested(of(api.TyNum), 2)
+	for i, c := range []struct {
+		v    api.Value
+		t    api.Type
+		want bool
+	}{
+		{list(part(0, 1), part(0, 2), part(1, 2), part(0, 0), part(3, 4)), deep, true},
+		{list(part(0, 2), part(0, 1), part(0, 2)), deep, true},
+		{list(part(0, 1), part(0, 2), part(0, 3)), deep, false},
+		{list(part(0, 2), part(1, 3)), deep, false},
+		{list(part(0, 2), part(2, 4)), deep, false},
+		{list(part(0, 2), part(0, 4)), nested(of(api.TyAny), 2), true},
+		{list(nested1, nested1), nested(of(api.TyNum), 3), true},
+		{list(nested1, list(nested1)), nested(of(api.TyNum), 3), false},
+		{list(list(nested1), nested1), nested(of(api.TyNum), 3), false},
+		{list(nested1, list(nested1)), nested(of(api.TyAny), 3), true},
+	} {
+		if got := types.Has(c.v, c.t); got != c.want {
+			t.Errorf("%d: %t comes", i, got)
+		}
+	}
+}
+
 func TestE1Name(t *testing.T) {
 	for _, c := range []struct {
 		t    api.Type
@@ -252,7 +324,12 @@ func TestE1WhatIsWrongDoesNotPanicAndEnds(t *testing.T) {
 		}
 		types.Type(api.Expr{Kind: api.XName, Name: "x"}, []api.Var{{Name: "x", Type: a}})
 	}
-	types.Has(endlessValue(200), nested(num, 9))
+	for _, kind := range []int{api.TyNum, api.TyAny} {
+		if types.Has(endlessValue(200), nested(of(kind), 9)) != (kind == api.TyAny) {
+			t.Errorf("%d: a list that holds itself is of it, or it is not", kind)
+		}
+	}
+	types.Has(endlessValue(20), nested(of(api.TyAny), 60000))
 }
 
 func TestE2WhatIsAsked(t *testing.T) {
