@@ -1,10 +1,63 @@
 package eval
 
 import (
+	"slices"
+
 	"verdict/api"
 	"verdict/dec"
 	"verdict/logic"
 )
+
+// Nodes tells what nodes make of what their kids have: it knows the functions.
+type Nodes struct {
+	functions map[string]function
+}
+
+// NewNodes knows all functions; making it once is less work than asking for them at each node.
+func NewNodes() Nodes {
+	return Nodes{functions: functions()}
+}
+
+// Made is what a node of that kind (of a call: of that name) makes of what its kids have, or, if it goes over a list, of what it has for each. Null, if there is no such node, or what it makes would be wrong.
+func (n Nodes) Made(kind int, name string, vals []api.Value) api.Value {
+	return orNull(n.made(kind, name, vals))
+}
+
+func (n Nodes) made(kind int, name string, vals []api.Value) api.Value {
+	switch kind {
+	case api.XCall:
+		return n.called(name, vals)
+	case api.XList, api.XFor:
+		return listOf(slices.Clone(vals))
+	case api.XSome:
+		return folded(logic.Or, truth(false), vals)
+	case api.XEvery:
+		return folded(logic.And, truth(true), vals)
+	}
+	switch {
+	case kind == api.XNeg && len(vals) == 1:
+		return ofNeg(vals[0])
+	case kind != api.XNeg && len(vals) == 2:
+		return ofTwo(kind, vals[0], vals[1])
+	}
+	return null()
+}
+
+func (n Nodes) called(name string, args []api.Value) api.Value {
+	f, known := n.functions[name]
+	if !known || len(args) != len(f.takes) {
+		return null()
+	}
+	return f.of(args)
+}
+
+// orNull is what stands in the place of v: what would be wrong is not known.
+func orNull(v api.Value) api.Value {
+	if logic.Wrong(v) != api.OK {
+		return null()
+	}
+	return v
+}
 
 func null() api.Value {
 	return api.Value{Kind: api.VNull}

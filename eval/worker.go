@@ -4,22 +4,21 @@ import (
 	"slices"
 
 	"verdict/api"
-	"verdict/logic"
 )
 
 // worker works out what an expression has in which all names are known.
 type worker struct {
-	names     map[string]api.Value
-	functions map[string]function
-	steps     int
+	names map[string]api.Value
+	nodes Nodes
+	steps int
 }
 
-func newWorker(binds []api.Bind, functions map[string]function) *worker {
+func newWorker(binds []api.Bind, nodes Nodes) *worker {
 	names := make(map[string]api.Value, len(binds))
 	for _, b := range binds {
 		names[b.Name] = b.Val
 	}
-	return &worker{names: names, functions: functions}
+	return &worker{names: names, nodes: nodes}
 }
 
 // whole is the edge at which it ends if it takes too long: nothing else panics, so whatever comes up says that.
@@ -29,7 +28,7 @@ func (w *worker) whole(x api.Expr) (v api.Value, err api.Errno) {
 			v, err = api.Value{}, api.ErrMuch
 		}
 	}()
-	return apart(w.value(x)), api.OK
+	return Apart(w.value(x)), api.OK
 }
 
 // step panics where it takes too long: so no node has to ask each of its kids whether it came to an end.
@@ -50,9 +49,9 @@ func (w *worker) value(x api.Expr) api.Value {
 	case x.Kind == api.XIf:
 		return w.chosen(x)
 	case goesOver(x.Kind):
-		return orNull(w.overList(x))
+		return w.overList(x)
 	}
-	return orNull(w.made(x, w.values(x.Kids)))
+	return w.nodes.Made(x.Kind, x.Name, w.values(x.Kids))
 }
 
 func (w *worker) values(kids []api.Expr) []api.Value {
@@ -75,14 +74,7 @@ func (w *worker) overList(x api.Expr) api.Value {
 	if list.Kind != api.VList {
 		return null()
 	}
-	each := w.forEach(x.Name, list.List, x.Kids[1])
-	switch x.Kind {
-	case api.XSome:
-		return folded(logic.Or, truth(false), each)
-	case api.XEvery:
-		return folded(logic.And, truth(true), each)
-	}
-	return listOf(each)
+	return w.nodes.Made(x.Kind, x.Name, w.forEach(x.Name, list.List, x.Kids[1]))
 }
 
 // forEach has x for each of the list, the name standing for it; behind it the name is again what it was.
@@ -101,28 +93,11 @@ func (w *worker) forEach(name string, list []api.Value, x api.Expr) []api.Value 
 	return vals
 }
 
-// made is what a node makes of what its kids have.
-func (w *worker) made(x api.Expr, kids []api.Value) api.Value {
-	switch x.Kind {
-	case api.XCall:
-		return w.functions[x.Name].of(kids)
-	case api.XList:
-		return listOf(kids)
-	case api.XNeg:
-		return ofNeg(kids[0])
-	}
-	return ofTwo(x.Kind, kids[0], kids[1])
+// Apart is v with lists of its own, none of which is the same one twice: whoever asked may change each by itself. Of what is wrong it is null, for a list that holds itself has no end.
+func Apart(v api.Value) api.Value {
+	return apart(orNull(v))
 }
 
-// orNull is what stands in the place of v: what would be wrong is not known.
-func orNull(v api.Value) api.Value {
-	if logic.Wrong(v) != api.OK {
-		return null()
-	}
-	return v
-}
-
-// apart is v with lists of its own, none of which is the same one twice: whoever asked may change each by itself.
 func apart(v api.Value) api.Value {
 	if v.Kind != api.VList {
 		return v
