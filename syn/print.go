@@ -4,7 +4,6 @@ import (
 	"strings"
 
 	"verdict/api"
-	"verdict/dec"
 	"verdict/lex"
 )
 
@@ -54,7 +53,7 @@ func (p *printer) level(kind int) int {
 func (p *printer) bare(x api.Expr) {
 	switch x.Kind {
 	case api.XLit:
-		p.WriteString(written(x.Val))
+		p.WriteString(lex.Written(x.Val))
 	case api.XName:
 		p.WriteString(x.Name)
 	case api.XNeg:
@@ -76,23 +75,6 @@ func (p *printer) bare(x api.Expr) {
 	default:
 		p.joined(p.signs[x.Kind], x.Kids[0], x.Kids[1])
 	}
-}
-
-// written is a value as it stands in an expression.
-func written(v api.Value) string {
-	switch {
-	case v.Kind == api.VNum:
-		// There is nothing wrong with the number, so Print can't tell an error.
-		text, _ := dec.Print(v.Num)
-		return text
-	case v.Kind == api.VText:
-		return lex.Quote(v.Text)
-	case v.Kind == api.VNull:
-		return "null"
-	case v.Yes:
-		return "true"
-	}
-	return "false"
 }
 
 // behind writes each kid behind its words.

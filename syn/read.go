@@ -10,13 +10,13 @@ import (
 
 // Read reads the expression that text is, or tells what is wrong with it, and where.
 func Read(text string) (api.Expr, api.Fault) {
-	tokens, fault := lex.Tokens(text)
+	walk, fault := lex.Over(text)
 	if fault.Err != api.OK {
 		return api.Expr{}, fault
 	}
-	r := reader{parser: parser{left: tokens, end: len(text)}, signs: signsByText()}
+	r := reader{parser: parser{Walk: walk}, signs: signsByText()}
 	x, err := r.whole()
-	var what unread
+	var what lex.Unread
 	if errors.As(err, &what) {
 		return api.Expr{}, what.Fault
 	}
@@ -35,23 +35,23 @@ type reader struct {
 
 func (r *reader) whole() (api.Expr, error) {
 	x, err := r.expression()
-	if err == nil && len(r.left) > 0 {
-		err = r.stuck(api.ErrForm)
+	if err != nil {
+		return api.Expr{}, err
 	}
-	return x, err
+	return x, r.End()
 }
 
 func (r *reader) expression() (api.Expr, error) {
 	return r.within(func() (api.Expr, error) {
 		switch {
-		case r.sees("if"):
+		case r.Sees("if"):
 			kids, err := r.behind("if", "then", "else")
 			return api.Expr{Kind: api.XIf, Kids: kids}, err
-		case r.take("for"):
+		case r.Take("for"):
 			return r.loop(api.XFor, "return")
-		case r.take("some"):
+		case r.Take("some"):
 			return r.loop(api.XSome, "satisfies")
-		case r.take("every"):
+		case r.Take("every"):
 			return r.loop(api.XEvery, "satisfies")
 		}
 		return r.joined(levelOr)
@@ -72,7 +72,7 @@ func (r *reader) loop(kind int, word string) (api.Expr, error) {
 func (r *reader) behind(words ...string) ([]api.Expr, error) {
 	var kids []api.Expr
 	for _, word := range words {
-		if err := r.need(word); err != nil {
+		if err := r.Need(word); err != nil {
 			return nil, err
 		}
 		kid, err := r.expression()
@@ -95,7 +95,7 @@ func (r *reader) joined(level int) (api.Expr, error) {
 		if !ok {
 			break
 		}
-		r.pass()
+		r.Pass()
 		var right api.Expr
 		right, err = r.joined(level + 1)
 		x = api.Expr{Kind: s.kind, Kids: []api.Expr{x, right}}
@@ -109,13 +109,13 @@ func (r *reader) joined(level int) (api.Expr, error) {
 
 // joint is the sign that comes next, if it is one of that level.
 func (r *reader) joint(level int) (sign, bool) {
-	t := r.next()
+	t := r.Next()
 	s, ok := r.signs[t.Text]
 	return s, ok && t.Kind != api.TText && s.level == level
 }
 
 func (r *reader) signed() (api.Expr, error) {
-	if !r.take("-") {
+	if !r.Take("-") {
 		return r.piece()
 	}
 	kid, err := r.within(r.signed)
@@ -123,66 +123,48 @@ func (r *reader) signed() (api.Expr, error) {
 }
 
 func (r *reader) piece() (api.Expr, error) {
-	if v, ok := meant(r.next()); ok {
+	if v, ok := lex.Meant(r.Next()); ok {
 		return r.literal(v)
 	}
-	if r.take("(") {
+	if r.Take("(") {
 		x, err := r.expression()
 		if err != nil {
 			return api.Expr{}, err
 		}
-		return x, r.need(")")
+		return x, r.Need(")")
 	}
-	if r.take("[") {
+	if r.Take("[") {
 		kids, err := r.listed("]", api.MaxList)
 		return api.Expr{Kind: api.XList, Kids: kids}, err
 	}
 	name, err := r.name()
-	if err != nil || !r.take("(") {
+	if err != nil || !r.Take("(") {
 		return api.Expr{Kind: api.XName, Name: name}, err
 	}
 	kids, err := r.listed(")", api.MaxArgs)
 	return api.Expr{Kind: api.XCall, Name: name, Kids: kids}, err
 }
 
-// meant is the value that a token says by itself, if it says one.
-func meant(t api.Token) (api.Value, bool) {
-	switch t.Kind {
-	case api.TNum:
-		return api.Value{Kind: api.VNum, Num: t.Num}, true
-	case api.TText:
-		return api.Value{Kind: api.VText, Text: t.Text}, true
-	case api.TWord:
-		switch t.Text {
-		case "null":
-			return api.Value{Kind: api.VNull}, true
-		case "true", "false":
-			return api.Value{Kind: api.VBool, Yes: t.Text == "true"}, true
-		}
-	}
-	return api.Value{}, false
-}
-
 // literal passes the token that says v.
 func (r *reader) literal(v api.Value) (api.Expr, error) {
 	if err := logic.Wrong(v); err != api.OK {
-		return api.Expr{}, r.stuck(err)
+		return api.Expr{}, r.Stuck(err)
 	}
-	r.pass()
+	r.Pass()
 	return api.Expr{Kind: api.XLit, Val: v}, nil
 }
 
 // listed stands behind the bracket that opens, and reads up to the one that closes.
 func (r *reader) listed(closing string, most int) ([]api.Expr, error) {
 	var kids []api.Expr
-	for !r.take(closing) {
+	for !r.Take(closing) {
 		if len(kids) > 0 {
-			if err := r.need(","); err != nil {
+			if err := r.Need(","); err != nil {
 				return nil, err
 			}
 		}
 		if len(kids) == most {
-			return nil, r.stuck(api.ErrMany)
+			return nil, r.Stuck(api.ErrMany)
 		}
 		kid, err := r.expression()
 		if err != nil {
