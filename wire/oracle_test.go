@@ -433,6 +433,10 @@ func TestM4AsTheChapterSays(t *testing.T) {
 		if back, err := wire.Unpack(p); err != api.OK || !alike(back, c) {
 			t.Fatalf("%+v: %+v, %d is unpacked", c, back, err)
 		}
+		b, err := wire.Written(c)
+		if want, wantErr := bytesOf(p); err != wantErr || !bytes.Equal(b, want) {
+			t.Fatalf("%+v: %v, %d is written, not %v, %d", c, b, err, want, wantErr)
+		}
 		for range m.Intn(3) {
 			m.spoil(&p)
 		}

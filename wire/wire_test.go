@@ -925,3 +925,69 @@ func TestM1M4AtOnce(t *testing.T) {
 	}
 	wait.Wait()
 }
+
+// writes holds Written against Bytes of Pack.
+func writes(t *testing.T, c api.Cmd) api.Errno {
+	t.Helper()
+	got, err := wire.Written(c)
+	if want, wantErr := wire.Bytes(wire.Pack(c)); err != wantErr || !bytes.Equal(got, want) {
+		t.Errorf("%d bytes, %d comes, not %d, %d", len(got), err, len(want), wantErr)
+	}
+	return err
+}
+
+func TestM2M4Written(t *testing.T) {
+	for _, c := range []api.Cmd{{}, full(), {Name: "\xff\x00é", To: math.MinInt}} {
+		writes(t, c)
+	}
+	// About as many trees as there may be, whichever of them come last: a command without anything is eight.
+	for columns := range 6 {
+		for rules := 1650; rules < 1670; rules++ {
+			for values := range 3 {
+				x := api.Table{Ins: make([]api.Column, columns), Rules: make([]api.Rule, rules)}
+				if columns > 0 {
+					x.Ins[0].Order = make([]api.Value, values)
+				}
+				x.Rules[rules-1] = api.Rule{Tests: make([]api.Test, values%2), Outs: make([]api.Expr, values/2)}
+				c := api.Cmd{Table: x}
+				want := api.OK
+				if trees := len(within(new(wire.Pack(c)))); trees > 5000 {
+					want = api.ErrMuch
+				}
+				if err := writes(t, c); err != want {
+					t.Errorf("%d, %d, %d: %d comes, not %d", columns, rules, values, err, want)
+				}
+			}
+		}
+	}
+	// About as deep as there may be.
+	for times := range 50 {
+		writes(t, deepest(times))
+	}
+	// About as many bytes as there may be.
+	for size := 99900; size < 100010; size++ {
+		writes(t, api.Cmd{Name: strings.Repeat("x", size)})
+	}
+}
+
+// However little room a command takes that holds itself, or has the same list many times, it is soon told that it is too much.
+func TestM2M4WrittenOfEndless(t *testing.T) {
+	for _, many := range []int{1, 2, 8192} {
+		tests, exprs, values := make([]api.Test, many), make([]api.Expr, many), make([]api.Value, many)
+		for i := range many {
+			tests[i].Kids, exprs[i].Kids, values[i].List = tests, exprs, values
+		}
+		for _, x := range []api.Table{
+			{Rules: []api.Rule{{Tests: tests}}},
+			{Rules: []api.Rule{{Outs: exprs}}},
+			{Outs: []api.Column{{Order: values}}},
+			{Rules: slices.Repeat([]api.Rule{{Tests: tests, Outs: exprs}}, many)},
+		} {
+			for range 50 {
+				if b, err := wire.Written(api.Cmd{Table: x}); err != api.ErrMuch || len(b) != 0 {
+					t.Fatalf("%d: %d bytes, %d comes", many, len(b), err)
+				}
+			}
+		}
+	}
+}
