@@ -262,37 +262,66 @@ func within(name string) int {
 	return n
 }
 
-// mostAtOnce is how many jobs were seen at work at once.
-func mostAtOnce(l []api.Job, workers int) int {
-	over, most := make(chan int), 0
+// looks is how many jobs were at work at once, look by look.
+func looks(l []api.Job, workers int) []int {
+	over := make(chan int)
 	go func() {
 		desk.Many(l, workers)
 		close(over)
 	}()
+	var seen []int
 	for {
 		select {
 		case <-over:
-			return most
+			return seen
 		default:
-			most = max(most, within("verdict/desk.One("))
+			seen = append(seen, within("verdict/desk.One("))
 		}
 	}
 }
 
-// Jobs don't wait for one another while there are workers. Who looks may look at bad moments, so some tries are made, with a thread for who looks.
-func TestS2WorkersAtOnce(t *testing.T) {
+// shows makes some tries, for who looks may look at bad moments, with a thread for who looks.
+func shows(l []api.Job, workers int, is func(seen []int) bool) bool {
 	defer runtime.GOMAXPROCS(runtime.GOMAXPROCS(max(4, runtime.GOMAXPROCS(0))))
+	for range 50 {
+		if is(looks(l, workers)) {
+			return true
+		}
+	}
+	return false
+}
+
+// Jobs don't wait for one another while there are workers.
+func TestS2WorkersAtOnce(t *testing.T) {
 	l := numbered(8)
 	for k := range l {
 		l[k] = slow(l[k], 1000)
 	}
 	for workers := 1; workers <= 3; workers++ {
-		most := 0
-		for try := 0; try < 50 && most < workers; try++ {
-			most = max(most, mostAtOnce(l, workers))
+		if !shows(l, workers, func(seen []int) bool { return slices.Contains(seen, workers) }) {
+			t.Errorf("there are never %d jobs at work at once", workers)
 		}
-		if most != workers {
-			t.Errorf("%d jobs are at work at once, not %d", most, workers)
+	}
+}
+
+// Whoever comes free takes the next job. If jobs were shared out ahead, two of the first three would be the same worker's, and be done one behind the other.
+func TestS2AsTheyComeFree(t *testing.T) {
+	for _, at := range [][2]int{{0, 1}, {0, 2}, {1, 2}} {
+		l := make([]api.Job, api.MaxJobs)
+		for _, k := range at {
+			l[k] = slow(l[k], 2000)
+		}
+		mostly := func(seen []int) bool {
+			both := 0
+			for _, n := range seen {
+				if n == 2 {
+					both++
+				}
+			}
+			return both > len(seen)/2
+		}
+		if !shows(l, 2, mostly) {
+			t.Errorf("the jobs %v are not done at once", at)
 		}
 	}
 }
